@@ -25,9 +25,9 @@ func numberOf(digits string) int {
 	return int(n)
 }
 
-// cacheAt expects that the string has this cache.
+// cacheAt expects that the string has this cache, which holds bits of at most 7 bytes.
 func cacheAt(s string, pos, have int) impl.Cache {
-	digits := bitDigits(impl.BitsOf(s[:pos]))
+	digits := bitDigits(impl.BitsOf(s[max(pos-7, 0):pos]))
 	return impl.Cache{S: s, Pos: pos, Word: numberOf(digits[len(digits)-have:]), Have: have}
 }
 

@@ -32,23 +32,28 @@ func prefixEntry(digits string) impl.Entry {
 	return impl.Entry{}
 }
 
-// sameEntries is a table with the same entry for all bits.
-func sameEntries(e impl.Entry) []impl.Entry {
-	return slices.Repeat([]impl.Entry{e}, 1<<impl.UePeek)
+// sameEntries is a table with the same entry for all numbers of so many bits.
+func sameEntries(width int, e impl.Entry) []impl.Entry {
+	return slices.Repeat([]impl.Entry{e}, 1<<width)
 }
 
-// wrongSizes are tables that FastUe must not use; the entries of most of them would mislead it.
-func wrongSizes() map[string][]impl.Entry {
-	same := sameEntries(impl.Entry{Len: 2, Val: 77})
+// sameUe is such a table for FastUe.
+func sameUe(e impl.Entry) []impl.Entry {
+	return sameEntries(impl.UePeek, e)
+}
+
+// wrongSizes are no tables for so many bits; their entries would mislead whoever uses them.
+func wrongSizes(width int) map[string][]impl.Entry {
+	size := 1 << width
+	same := sameEntries(width, impl.Entry{Len: 2, Val: 77})
 	return map[string][]impl.Entry{
 		"nil":                nil,
 		"empty":              {},
 		"one entry":          same[:1],
-		"half":               same[:256],
-		"one entry too few":  same[:511],
+		"half":               same[:size/2],
+		"one entry too few":  same[:size-1],
 		"one entry too many": append(slices.Clone(same), same[0]),
 		"twice":              append(slices.Clone(same), same...),
-		"hidden last entry":  impl.UeTable()[:511],
 	}
 }
 
@@ -181,7 +186,7 @@ func TestTableOkOfOtherSizes(t *testing.T) {
 	if impl.TableOk(nil) || impl.TableOk([]impl.Entry{}) || impl.TableOk(append(slices.Clone(table), impl.Entry{})) || impl.TableOk(append(slices.Clone(table), table...)) {
 		t.Error("TableOk accepts no entries or too many")
 	}
-	for name, other := range wrongSizes() {
+	for name, other := range wrongSizes(impl.UePeek) {
 		if impl.TableOk(other) {
 			t.Errorf("TableOk accepts the table %s", name)
 		}
@@ -272,7 +277,7 @@ func TestFastUeOfCodeThatEndsAfterData(t *testing.T) {
 func TestFastUeAtTheEnd(t *testing.T) {
 	for _, s := range append(cacheStrings(), longString()) {
 		c := impl.Cache{S: s, Pos: len(s)}
-		for _, table := range [][]impl.Entry{impl.UeTable(), nil, sameEntries(impl.Entry{Len: 1, Val: 5}), sameEntries(impl.Entry{Len: 9, Val: 5}), sameEntries(impl.Entry{})} {
+		for _, table := range [][]impl.Entry{impl.UeTable(), nil, sameUe(impl.Entry{Len: 1, Val: 5}), sameUe(impl.Entry{Len: 9, Val: 5}), sameUe(impl.Entry{})} {
 			checkFastUe(t, c, table, c, 0, impl.ErShort)
 		}
 	}
@@ -298,7 +303,7 @@ func TestFastUeUsesTheTable(t *testing.T) {
 	for _, s := range []string{"\xa5\x3c\x00\x00\x01\x80\x7e\x99\xc3\xff", "\x00\x00\x00", "\xff"} {
 		for size := 1; size <= impl.UePeek; size++ {
 			for _, val := range []int{0, 1, -1, 12345, 1 << 40, math.MaxInt, math.MinInt} {
-				table := sameEntries(impl.Entry{Len: size, Val: val})
+				table := sameUe(impl.Entry{Len: size, Val: val})
 				for _, c := range cachesOf(s) {
 					place := impl.PlaceIn(c) + size
 					if place > 8*len(s) {
@@ -332,9 +337,9 @@ func TestFastUeUsesTheEntryOfTheNextBits(t *testing.T) {
 }
 
 func TestFastUeIgnoresOtherTables(t *testing.T) {
-	tables := wrongSizes()
+	tables := wrongSizes(impl.UePeek)
 	for name, size := range map[string]int{"Len 0": 0, "Len -1": -1, "Len 10": 10, "Len 16": 16, "Len 17": 17, "Len -9": -9, "smallest Len": math.MinInt, "largest Len": math.MaxInt, "Len 2^32+1": 1<<32 + 1} {
-		tables[name] = sameEntries(impl.Entry{Len: size, Val: 77})
+		tables[name] = sameUe(impl.Entry{Len: size, Val: 77})
 	}
 	for name, table := range tables {
 		for _, s := range append(cacheStrings(), "\x3f", "\x03\xff\xff", "\x01", "\x5a\x5a\x5a\x5a\x5a\x5a\x5a\x5a\x5a\x5a") {
@@ -351,7 +356,7 @@ func TestFastUeIgnoresOtherTables(t *testing.T) {
 }
 
 func TestFastUeOfInvalidCaches(t *testing.T) {
-	tables := [][]impl.Entry{impl.UeTable(), nil, sameEntries(impl.Entry{Len: 1, Val: 5}), sameEntries(impl.Entry{Len: 10, Val: 5})}
+	tables := [][]impl.Entry{impl.UeTable(), nil, sameUe(impl.Entry{Len: 1, Val: 5}), sameUe(impl.Entry{Len: 10, Val: 5})}
 	for _, c := range notCaches() {
 		for _, table := range tables {
 			checkFastUe(t, c, table, c, 0, impl.ErShort)
