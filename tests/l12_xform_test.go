@@ -186,6 +186,54 @@ func checkRoundedAlone(t *testing.T, count, v, want int) {
 	}
 }
 
+// checkOtherCounts checks that there is no result for any count of numbers but the fitting ones.
+func checkOtherCounts(t *testing.T, name string, of func([]int) []int, fitting ...int) {
+	t.Helper()
+	for _, count := range append(notCounts(), levelCounts()...) {
+		if count < 0 || count > 1<<20 || slices.Contains(fitting, count) {
+			continue
+		}
+		if got := of(inFrontOf(count)); len(got) != 0 {
+			t.Errorf("%s of %d numbers = %v, want none", name, count, got)
+		}
+	}
+	if got := append(of(nil), of([]int{})...); len(got) != 0 {
+		t.Errorf("%s of no numbers = %v, want none", name, got)
+	}
+}
+
+// checkArgumentLeft checks that an argument with count numbers, one more or one less keeps them, and the memory behind them.
+func checkArgumentLeft(t *testing.T, name string, of func([]int) []int, count int) {
+	t.Helper()
+	backing := slices.Repeat([]int{7, -1600, mostElement, 0, -mostElement, 801}, count)
+	before := slices.Clone(backing)
+	for _, size := range []int{count - 1, count, count + 1} {
+		// A result that shared memory would change the argument with it.
+		result := of(backing[:size])
+		result = result[:cap(result)]
+		for i := range result {
+			result[i] = -9
+		}
+	}
+	if !slices.Equal(backing, before) {
+		t.Errorf("the argument of %s became %v", name, backing)
+	}
+}
+
+// checkNewEachTime checks that a result of count numbers shares no memory with an earlier one.
+func checkNewEachTime(t *testing.T, name string, of func([]int) []int, count int) {
+	t.Helper()
+	numbers := unevenBlocks(8, 1, mostElement)[0][:count]
+	first := of(numbers)
+	want := slices.Clone(first)
+	for i := range first {
+		first[i] = -9
+	}
+	if got := of(numbers); len(got) != count || !slices.Equal(got, want) {
+		t.Errorf("the result %v of %s has changed with an earlier one to %v", want, name, got)
+	}
+}
+
 func roundingUnits() map[int]int {
 	return map[int]int{16: 1600, 64: 64}
 }
@@ -303,17 +351,7 @@ func TestElementsBeyondLimit(t *testing.T) {
 
 func TestTransformsOfOtherCounts(t *testing.T) {
 	for _, tr := range transforms() {
-		for _, count := range append(notCounts(), levelCounts()...) {
-			if count < 0 || count > 1<<20 || count == len(tr.m)*len(tr.m) {
-				continue
-			}
-			if got := tr.of(inFrontOf(count)); len(got) != 0 {
-				t.Errorf("%s of %d numbers = %v, want none", tr.name, count, got)
-			}
-		}
-		if got := append(tr.of(nil), tr.of([]int{})...); len(got) != 0 {
-			t.Errorf("%s of no numbers = %v, want none", tr.name, got)
-		}
+		checkOtherCounts(t, tr.name, tr.of, len(tr.m)*len(tr.m))
 	}
 }
 
@@ -397,17 +435,7 @@ func TestNumbersToRoundAreLimited(t *testing.T) {
 }
 
 func TestRoundedOfOtherCounts(t *testing.T) {
-	for _, count := range notCounts() {
-		if count < 0 || count > 1<<20 {
-			continue
-		}
-		if got := impl.Rounded(inFrontOf(count)); len(got) != 0 {
-			t.Errorf("Rounded of %d numbers = %v, want none", count, got)
-		}
-	}
-	if got := impl.Rounded(nil); len(got) != 0 {
-		t.Errorf("Rounded of nil = %v, want none", got)
-	}
+	checkOtherCounts(t, "Rounded", impl.Rounded, levelCounts()...)
 }
 
 func TestTransformsRestoreBlocks(t *testing.T) {
@@ -473,34 +501,19 @@ func TestInverseRefusesWhatForwardMakesTooLarge(t *testing.T) {
 }
 
 func TestTransformsLeaveArgumentsAlone(t *testing.T) {
-	for _, tr := range append(transforms(), transform{"Rounded", impl.Rounded, fourMatrix()}, transform{"Rounded", impl.Rounded, eightMatrix()}) {
-		count := len(tr.m) * len(tr.m)
-		backing := slices.Repeat([]int{7, -1600, mostElement, 0, -mostElement, 801}, count)
-		before := slices.Clone(backing)
-		for _, size := range []int{count - 1, count, count + 1} {
-			// A result that shared memory would change the argument with it.
-			result := tr.of(backing[:size])
-			result = result[:cap(result)]
-			for i := range result {
-				result[i] = -9
-			}
-		}
-		if !slices.Equal(backing, before) {
-			t.Errorf("the argument of %s became %v", tr.name, backing)
-		}
+	for _, tr := range transforms() {
+		checkArgumentLeft(t, tr.name, tr.of, len(tr.m)*len(tr.m))
+	}
+	for _, count := range levelCounts() {
+		checkArgumentLeft(t, "Rounded", impl.Rounded, count)
 	}
 }
 
 func TestTransformsAreNewEachTime(t *testing.T) {
-	for _, tr := range append(transforms(), transform{"Rounded", impl.Rounded, fourMatrix()}) {
-		block := unevenBlocks(len(tr.m), 1, mostElement)[0]
-		first := tr.of(block)
-		want := slices.Clone(first)
-		for i := range first {
-			first[i] = -9
-		}
-		if got := tr.of(block); len(got) != len(block) || !slices.Equal(got, want) {
-			t.Errorf("the result %v of %s has changed with an earlier one to %v", want, tr.name, got)
-		}
+	for _, tr := range transforms() {
+		checkNewEachTime(t, tr.name, tr.of, len(tr.m)*len(tr.m))
+	}
+	for _, count := range levelCounts() {
+		checkNewEachTime(t, "Rounded", impl.Rounded, count)
 	}
 }
