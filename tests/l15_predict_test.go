@@ -52,6 +52,13 @@ func smoothedWanted(a, b, c int) int {
 	return int(math.Floor(float64(a+b+b+c+2) / 4))
 }
 
+// between is the number from least to most that is closest to v: the middle one of the three.
+func between(least, v, most int) int {
+	l := []int{least, v, most}
+	slices.Sort(l)
+	return l[1]
+}
+
 // predWanted is PredAt's definition for a valid neighborhood, a mode and a position of the block.
 func predWanted(mode int, b impl.Nb, n, x, y int) int {
 	switch mode {
@@ -62,9 +69,7 @@ func predWanted(mode int, b impl.Nb, n, x, y int) int {
 	case 2:
 		return b.Left[y]
 	case 3:
-		l := []int{0, b.Left[y] + b.Top[x] - b.Corner, mostSample}
-		slices.Sort(l)
-		return l[1]
+		return between(0, b.Left[y]+b.Top[x]-b.Corner, mostSample)
 	case 4:
 		l := append(slices.Clone(b.Top), slices.Repeat(b.Top[2*n-1:], n)...)[x+y:]
 		return smoothedWanted(l[0], l[1], l[2])
