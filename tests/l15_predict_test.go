@@ -95,11 +95,23 @@ func checkPredAt(t *testing.T, mode int, b impl.Nb, n, x, y, want int) {
 	}
 }
 
-// checkPredBlock checks both functions at all positions of a block.
+// A blockPred is a function that predicts a block.
+type blockPred struct {
+	name string
+	of   func(mode int, b impl.Nb, n int) []int
+}
+
+func blockPreds() []blockPred {
+	return []blockPred{{"Pred", impl.Pred}, {"FastPred", impl.FastPred}}
+}
+
+// checkPredBlock checks the prediction of a block, and at each of its positions.
 func checkPredBlock(t *testing.T, mode int, b impl.Nb, n int, want []int) {
 	t.Helper()
-	if got := impl.Pred(mode, b, n); !slices.Equal(got, want) {
-		t.Errorf("Pred(%d, %v, %d) = %v, want %v", mode, b, n, got, want)
+	for _, pred := range blockPreds() {
+		if got := pred.of(mode, b, n); !slices.Equal(got, want) {
+			t.Errorf("%s(%d, %v, %d) = %v, want %v", pred.name, mode, b, n, got, want)
+		}
 	}
 	for i, v := range want {
 		checkPredAt(t, mode, b, n, i%n, i/n, v)
@@ -109,13 +121,34 @@ func checkPredBlock(t *testing.T, mode int, b impl.Nb, n int, want []int) {
 // checkNoPred checks that the mode has no prediction, at the positions of a block and at others.
 func checkNoPred(t *testing.T, mode int, b impl.Nb, n int) {
 	t.Helper()
-	if got := impl.Pred(mode, b, n); len(got) != 0 {
-		t.Errorf("Pred(%d, %v, %d) = %v, want none", mode, b, n, got)
+	for _, pred := range blockPreds() {
+		if got := pred.of(mode, b, n); len(got) != 0 {
+			t.Errorf("%s(%d, %v, %d) = %v, want none", pred.name, mode, b, n, got)
+		}
 	}
 	for _, x := range []int{-1, 0, 3, 4, 7, 8, n - 1, n} {
 		for _, y := range []int{-1, 0, 3, 4, 7, 8, n - 1, n} {
 			checkPredAt(t, mode, b, n, x, y, -1)
 		}
+	}
+}
+
+// checkNewFrom checks that the function returns the same numbers again, and shares no memory with an earlier result nor with the neighborhood.
+func checkNewFrom(t *testing.T, b impl.Nb, want []int, of func() []int) {
+	t.Helper()
+	before := samplesOf(b)
+	for range 2 {
+		got := of()
+		if !slices.Equal(got, want) {
+			t.Errorf("the result is %v, want %v as before", got, want)
+		}
+		got = got[:cap(got)]
+		for i := range got {
+			got[i] = -9
+		}
+	}
+	if !slices.Equal(samplesOf(b), before) {
+		t.Errorf("the neighborhood became %v", b)
 	}
 }
 
@@ -460,25 +493,13 @@ func TestPredIsNewEachTime(t *testing.T) {
 	for _, n := range blockSizes() {
 		b := cutNb(unevenSamples(n), n)
 		b.HasTop, b.HasLeft = true, true
-		before := samplesOf(b)
 		for _, mode := range allModes() {
-			t.Run(impl.ModeWord(mode)+strconv.Itoa(n), func(t *testing.T) {
-				want := predBlockWanted(mode, b, n)
-				for range 2 {
-					got := impl.Pred(mode, b, n)
-					if !slices.Equal(got, want) {
-						t.Errorf("Pred has changed with an earlier result to %v, want %v", got, want)
-					}
-					// A result that shared memory would change the argument with it.
-					got = got[:cap(got)]
-					for i := range got {
-						got[i] = -9
-					}
-				}
-				if !slices.Equal(samplesOf(b), before) {
-					t.Errorf("the neighborhood became %v", b)
-				}
-			})
+			for _, pred := range blockPreds() {
+				t.Run(pred.name+" "+impl.ModeWord(mode)+strconv.Itoa(n), func(t *testing.T) {
+					want := predBlockWanted(mode, b, n)
+					checkNewFrom(t, b, want, func() []int { return pred.of(mode, b, n) })
+				})
+			}
 		}
 	}
 }
